@@ -1,42 +1,19 @@
 package inflate
 
-import "layercake/api"
-
-// Kinds of blocks.
-const (
-	kindStored = iota
-	kindFixed
-	kindDynamic
+import (
+	"layercake/api"
+	"layercake/block"
 )
-
-// How many there may be of a dynamic block.
-const (
-	leastSymbols   = 257
-	mostSymbols    = 286
-	leastDistances = 1
-	mostDistances  = 30
-	leastOfLengths = 4
-)
-
-// Symbols of the code of lengths that are no length.
-const (
-	lastAgain = 16
-	fewZeros  = 17
-	manyZeros = 18
-)
-
-// ofLengths: the symbols of the code of lengths, in the order in which their own lengths are written.
-var ofLengths = [...]int{16, 17, 18, 0, 8, 7, 9, 6, 10, 5, 11, 4, 12, 3, 13, 2, 14, 1, 15}
 
 func (r *reader) blocks() {
 	for last := false; !last; {
 		last = r.number(1) == 1
 		switch r.number(2) {
-		case kindStored:
+		case block.Stored:
 			r.storedBlock()
-		case kindFixed:
+		case block.Fixed:
 			r.tokens(r.fixedCodes())
-		case kindDynamic:
+		case block.Dynamic:
 			r.tokens(r.dynamicCodes())
 		default:
 			throw(api.ErrText)
@@ -59,40 +36,20 @@ func (r *reader) storedBlock() {
 
 func (r *reader) fixedCodes() *codes {
 	if r.fixed == nil {
-		var symbols [288]int
-		for i := range symbols {
-			symbols[i] = fixedLength(i)
-		}
-		var distances [32]int
-		for i := range distances {
-			distances[i] = 5
-		}
-		r.fixed = &codes{tree(symbols[:]), tree(distances[:])}
+		r.fixed = &codes{tree(block.FixedSymbols()), tree(block.FixedDistances())}
 	}
 	return r.fixed
 }
 
-func fixedLength(symbol int) int {
-	switch {
-	case symbol <= 143:
-		return 8
-	case symbol <= 255:
-		return 9
-	case symbol <= 279:
-		return 7
-	}
-	return 8
-}
-
 func (r *reader) dynamicCodes() *codes {
-	symbols := r.number(5) + leastSymbols
-	distances := r.number(5) + leastDistances
-	count := r.number(4) + leastOfLengths
-	if symbols > mostSymbols || distances > mostDistances {
+	symbols := r.number(5) + block.LeastSymbols
+	distances := r.number(5) + block.LeastDistances
+	count := r.number(4) + block.LeastOfLengths
+	if symbols > block.MostSymbols || distances > block.MostDistances {
 		throw(api.ErrText)
 	}
 	row := r.lengths(count, symbols+distances)
-	if row[blockEnd] == 0 {
+	if row[block.End] == 0 {
 		throw(api.ErrText)
 	}
 	return &codes{tree(row[:symbols]), tree(row[symbols:])}
@@ -100,9 +57,10 @@ func (r *reader) dynamicCodes() *codes {
 
 // lengths of all symbols and distances in one row: a run of them may begin among those and end among these.
 func (r *reader) lengths(count, all int) []int {
-	var own [len(ofLengths)]int
+	var own [block.MostOfLengths]int
+	order := block.OfLengths()
 	for i := range count {
-		own[ofLengths[i]] = r.number(3)
+		own[order[i]] = r.number(3)
 	}
 	code := tree(own[:])
 	var row []int
@@ -121,15 +79,16 @@ func (r *reader) lengths(count, all int) []int {
 // run that a symbol of the code of lengths means, behind a row.
 func (r *reader) run(symbol int, row []int) (length, times int) {
 	switch symbol {
-	case lastAgain:
+	case block.LastAgain:
 		if len(row) == 0 {
 			throw(api.ErrText)
 		}
-		return row[len(row)-1], 3 + r.number(2)
-	case fewZeros:
-		return 0, 3 + r.number(3)
-	case manyZeros:
-		return 0, 11 + r.number(7)
+		length = row[len(row)-1]
+	case block.FewZeros, block.ManyZeros:
+		length = 0
+	default:
+		length = symbol
 	}
-	return symbol, 1
+	least, width := block.Times(symbol)
+	return length, least + r.number(width)
 }
