@@ -10,7 +10,7 @@ func Line(p api.Picture, x0, y0, x1, y1 int, c api.Pixel) (api.Picture, error) {
 	if !shape.IsRight(p) {
 		return api.Picture{}, api.ErrShape
 	}
-	if !areNear(x0, y0, x1, y1) {
+	if !shape.AreNear(x0, y0, x1, y1) {
 		return api.Picture{}, api.ErrBound
 	}
 	m := marksOn(p)

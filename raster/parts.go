@@ -6,14 +6,12 @@ import (
 	"layercake/shape"
 )
 
-const farthest = 10000 // how far from a picture's left top corner a place may be told
-
 // Fill a part.
 func Fill(p api.Picture, r api.Rect, c api.Pixel) (api.Picture, error) {
 	if !shape.IsRight(p) {
 		return api.Picture{}, api.ErrShape
 	}
-	if !areNear(r.X, r.Y, r.W, r.H) || r.W < 0 || r.H < 0 {
+	if !shape.AreNear(r.X, r.Y, r.W, r.H) || r.W < 0 || r.H < 0 {
 		return api.Picture{}, api.ErrBound
 	}
 	return painted(p, c, func(x, y int) bool { return covers(r, x, y) }), nil
@@ -35,7 +33,7 @@ func Stamp(p, q api.Picture, x, y, mode int) (api.Picture, error) {
 	if !shape.IsRight(p) || !shape.IsRight(q) {
 		return api.Picture{}, api.ErrShape
 	}
-	if !areNear(x, y) {
+	if !shape.AreNear(x, y) {
 		return api.Picture{}, api.ErrBound
 	}
 	// Asked ahead, so that a mode that is none is told wherever q lies.
@@ -50,15 +48,6 @@ func Stamp(p, q api.Picture, x, y, mode int) (api.Picture, error) {
 		}
 		return seen
 	}), nil
-}
-
-func areNear(l ...int) bool {
-	for _, n := range l {
-		if n < -farthest || n > farthest {
-			return false
-		}
-	}
-	return true
 }
 
 // covers: only of a part whose numbers are near, as others may wrap round.

@@ -48,3 +48,27 @@ func TestRight(t *testing.T) {
 		t.Error("room counts")
 	}
 }
+
+// P121, P123, P140
+
+func TestNear(t *testing.T) {
+	for n := -10100; n <= 10100; n++ {
+		if got := AreNear(n); got != (n >= -10000 && n <= 10000) {
+			t.Errorf("AreNear(%d): %t", n, got)
+		}
+	}
+	for _, n := range []int{math.MinInt, math.MinInt + 1, -1 << 32, -10001, 10001, 1 << 31, 1 << 32, 1<<32 + 1, math.MaxInt} {
+		for i := range 4 {
+			l := []int{0, -10000, 10000, 1}
+			if !AreNear(l...) {
+				t.Error("near ones are not near")
+			}
+			if l[i] = n; AreNear(l...) {
+				t.Errorf("%v are near", l)
+			}
+		}
+	}
+	if !AreNear() {
+		t.Error("none are not near")
+	}
+}
