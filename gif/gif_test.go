@@ -312,6 +312,42 @@ func TestErrorsAreAsTold(t *testing.T) {
 	}
 }
 
+// Check tells what Write tells of frames of which each pixel covers all, in one color.
+func TestCheck(t *testing.T) {
+	m := mixer(16)
+	for range 3000 {
+		wide, high := m.between(1, 9), m.between(1, 9)
+		if m.below(30) == 0 {
+			wide, high = m.between(100, 256), m.between(100, 256)
+		}
+		l := repeated(Frame{P: colored(wide, high, red)}, m.below(18))
+		for i := range l {
+			switch m.below(12) {
+			case 0:
+				l[i].Delay = m.between(-1, 1) * 65536
+			case 1:
+				l[i].P.High += m.between(-1, 1)
+			case 2:
+				l[i].P.P = l[i].P.P[m.below(2):]
+			}
+		}
+		loops := m.between(-1, 30) * 2185
+		want := slowError(l, loops)
+		for i := range l {
+			l[i].P = copied(l[i].P)
+			for k := range l[i].P.P {
+				l[i].P.P[k] = api.Pixel{R: uint8(k), G: uint8(k / 256), B: uint8(i), A: uint8(m.below(256))}
+			}
+		}
+		if err := Check(l, loops); !alike(err, want) {
+			t.Fatalf("%d frames of %d by %d: %#v, want %#v", len(l), wide, high, err, want)
+		}
+	}
+	if err := Check(nil, 0); err != api.ErrBound {
+		t.Error(err)
+	}
+}
+
 // P171
 
 func TestWrittenByHand(t *testing.T) {

@@ -7,7 +7,6 @@ import (
 	"layercake/api"
 	"layercake/colors"
 	"layercake/lzw"
-	"layercake/shape"
 )
 
 // frame as it is told: its unlike pixels, and of each pixel the number of its like.
@@ -17,14 +16,8 @@ type frame struct {
 	numbers           []int
 }
 
-// frameOf one that is to be as great as the first one.
-func frameOf(f Frame, first api.Picture) (frame, error) {
-	if !shape.IsRight(f.P) || f.P.Wide != first.Wide || f.P.High != first.High {
-		return frame{}, api.ErrShape
-	}
-	if !isPair(f.Delay) {
-		return frame{}, api.ErrBound
-	}
+// frameOf one that was checked, if its colors are few.
+func frameOf(f Frame) (frame, error) {
 	p, ok := allOrNothing(f.P)
 	if !ok {
 		return frame{}, api.ErrColors

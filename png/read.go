@@ -5,8 +5,6 @@ import (
 
 	"layercake/api"
 	"layercake/chunk"
-	"layercake/filter"
-	"layercake/inflate"
 )
 
 // parts of a file that mean something: its head, and the data of the chunks between.
@@ -88,24 +86,6 @@ func joined(l []chunk.Chunk, at []int) string {
 func (f parts) hasColors() bool {
 	count := len(f.colors) / colorSize
 	return count >= 1 && count <= f.mostColors() && len(f.colors)%colorSize == 0
-}
-
-// bytes of the pixels, row by row.
-func (f parts) bytes() (string, error) {
-	size := f.high * (f.rowSize() + 1)
-	text, err := inflate.Unzip(f.packed, size)
-	if err != nil {
-		return "", err
-	}
-	if len(text) < size {
-		return "", api.ErrText
-	}
-	s, err := filter.Back(text, f.rowSize(), f.step())
-	if err != nil {
-		// Bare: a file's errors have no place among its rows.
-		return "", api.ErrText
-	}
-	return s, nil
 }
 
 // pixels of a picture, if each is one.

@@ -4,7 +4,7 @@ import (
 	"layercake/api"
 	"layercake/chunk"
 	"layercake/deflate"
-	"layercake/filter"
+	"layercake/rows"
 )
 
 const coversAll = 255
@@ -37,7 +37,11 @@ func writeNumbers(p api.Picture, unlike []api.Pixel, numbers []byte) (string, er
 	if s := coversText(unlike); s != "" {
 		between = append(between, chunk.Chunk{Kind: ofCovers, Data: s})
 	}
-	return writeFile(h, between, numberRows(h, numbers))
+	packed, err := deflate.Zip(numberRows(h, numbers))
+	if err != nil {
+		return "", err
+	}
+	return writeFile(h, between, packed)
 }
 
 // depthFor so many colors: the least that tells them apart.
@@ -88,24 +92,15 @@ func (h head) placeOf(x int) (at, up int) {
 }
 
 func writeFull(p api.Picture) (string, error) {
-	h := head{p.Wide, p.High, fullByte, byAll}
-	l := make([]byte, 0, h.high*h.rowSize())
-	for _, x := range p.P {
-		l = append(l, x.R, x.G, x.B, x.A)
-	}
-	s, err := filter.Rows(string(l), h.rowSize(), h.step())
+	packed, err := rows.Pack(p)
 	if err != nil {
 		return "", err
 	}
-	return writeFile(h, nil, s)
+	return writeFile(head{p.Wide, p.High, fullByte, byAll}, nil, packed)
 }
 
 // writeFile with some chunks ahead of the rows. A picture's rows are never so many that they, or the file, would be too long.
-func writeFile(h head, between []chunk.Chunk, text string) (string, error) {
-	packed, err := deflate.Zip(text)
-	if err != nil {
-		return "", err
-	}
+func writeFile(h head, between []chunk.Chunk, packed string) (string, error) {
 	l := append([]chunk.Chunk{{Kind: ofHead, Data: h.text()}}, between...)
 	return chunk.Write(append(l, chunk.Chunk{Kind: ofRows, Data: packed}, chunk.Chunk{Kind: ofEnd}))
 }
